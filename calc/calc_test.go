@@ -205,7 +205,7 @@ func recalculated(b api.Book, r api.Rect) []api.Ref {
 // P33.2 to P33.8: after any calls everything is as if anew.
 func TestRandom(t *testing.T) {
 	r := rand.New(rand.NewSource(1))
-	for range 60 {
+	for range 30 {
 		b := sample.Random(r.Intn)
 		g := engine(t, b)
 		evaluations := 0

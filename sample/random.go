@@ -32,8 +32,8 @@ func Random(pick Pick) api.Book {
 		inputs[spot(pick)] = input(pick)
 	}
 	b.Entries = listed(inputs)
-	for range pick(4) {
-		b.Grants = append(b.Grants, api.Grant{Rect: released(pick), Fns: uint8(1 + pick(31)), To: crowd(pick, b.Users), By: pick(b.Users), Revoked: pick(8) == 0})
+	for range pick(6) {
+		b.Grants = append(b.Grants, api.Grant{Rect: released(pick), Fns: uint8(1 + pick(31)), To: crowd(pick, b.Users), By: pick(b.Users), Revoked: pick(9) == 0})
 	}
 	return b
 }
@@ -84,7 +84,7 @@ func place(pick Pick) api.Rect {
 
 // released returns one of a few ranges, for released functions and their grants.
 func released(pick Pick) api.Rect {
-	return Rect([]string{"A1:B2", "B1:B3", "C1", "A2:D3", "C4:D5"}[pick(5)])
+	return Rect([]string{"A1:B2", "B1:B3", "C1"}[pick(3)])
 }
 
 // crowd returns a set of users.
