@@ -20,12 +20,17 @@ func Area() api.Rect {
 	return api.Rect{C1: 1, R1: 1, C2: cols, R2: rows}
 }
 
-// Random returns a small book.
+// Random returns a small book; in every other one an owner hides a range from all others, and grants aggregates over it.
 func Random(pick Pick) api.Book {
 	b := api.Book{Users: 1 + pick(4)}
 	b.Rules = []api.Rule{{Rect: Whole(), Rights: rights(pick, b.Users)}}
 	for range pick(4) {
 		b.Rules = append(b.Rules, api.Rule{Rect: place(pick), Rights: rights(pick, b.Users)})
+	}
+	if owner := pick(b.Users); pick(2) == 0 {
+		area, only := released(pick), uint64(1)<<owner
+		b.Rules = append(b.Rules, api.Rule{Rect: area, Rights: api.Rights{Read: only, Write: only, Own: only}})
+		b.Grants = append(b.Grants, api.Grant{Rect: area, Fns: uint8(1 + pick(31)), To: crowd(pick, b.Users), By: owner})
 	}
 	inputs := map[api.Ref]string{}
 	for range pick(cols * rows) {
