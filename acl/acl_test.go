@@ -9,20 +9,12 @@ import (
 	"louvre/acl"
 	"louvre/api"
 	"louvre/rect"
+	"louvre/sample"
 )
-
-// rule returns a rule for a range that is written as such.
-func rule(s string, read, write, own uint64) api.Rule {
-	r, e := rect.Parse(s)
-	if e != api.OK {
-		panic(s)
-	}
-	return api.Rule{Rect: r, Rights: api.Rights{Read: read, Write: write, Own: own}}
-}
 
 // example is the rules of the chapter.
 func example() []api.Rule {
-	return []api.Rule{rule("A1:AMJ1024", 7, 7, 1), rule("B1:B3", 1, 1, 1), rule("B2:C2", 2, 0, 1)}
+	return []api.Rule{sample.Rule("A1:AMJ1024", 7, 7, 1), sample.Rule("B1:B3", 1, 1, 1), sample.Rule("B2:C2", 2, 0, 1)}
 }
 
 func at(col, row int) api.Ref { return api.Ref{Col: col, Row: row} }
@@ -40,8 +32,8 @@ func TestCheck(t *testing.T) {
 	}{
 		{3, l, 0, api.OK}, {2, l, 0, api.ErrArg}, {3, l[1:], 0, api.ErrArg}, {64, l, 0, api.OK}, {0, l, 0, api.ErrArg}, {-1, l, 0, api.ErrArg}, {65, l, 0, api.ErrArg}, {math.MinInt, l, 0, api.ErrArg}, {0, append(many, bad), 0, api.ErrArg},
 		{3, nil, 0, api.ErrArg}, {3, many, 0, api.OK}, {3, append(many, l[0]), 64, api.ErrLong}, {3, append(many[:63:63], bad, bad), 64, api.ErrLong}, {3, append([]api.Rule{bad}, many...), 64, api.ErrLong},
-		{3, []api.Rule{l[0], l[1], bad}, 2, api.ErrRange}, {3, []api.Rule{l[0], rule("A1", 8, 0, 0), bad}, 1, api.ErrArg}, {3, []api.Rule{l[0], rule("A1", 0, 8, 0)}, 1, api.ErrArg}, {3, []api.Rule{l[0], rule("A1", 0, 0, 8)}, 1, api.ErrArg}, {4, []api.Rule{l[0], rule("A1", 8, 8, 8)}, 0, api.OK}, {2, []api.Rule{l[0], bad}, 0, api.ErrArg},
-		{3, []api.Rule{rule("A1:AMJ1023", 1, 1, 1)}, 0, api.ErrArg}, {3, []api.Rule{l[0], {Rect: api.Rect{C1: 2, R1: 1, C2: 1, R2: 1}, Rights: api.Rights{Own: 8}}}, 1, api.ErrRange}, {64, []api.Rule{rule("A1:AMJ1024", math.MaxUint64, 0, math.MaxUint64)}, 0, api.OK}, {1, []api.Rule{rule("A1:AMJ1024", 1, 1, 1)}, 0, api.OK},
+		{3, []api.Rule{l[0], l[1], bad}, 2, api.ErrRange}, {3, []api.Rule{l[0], sample.Rule("A1", 8, 0, 0), bad}, 1, api.ErrArg}, {3, []api.Rule{l[0], sample.Rule("A1", 0, 8, 0)}, 1, api.ErrArg}, {3, []api.Rule{l[0], sample.Rule("A1", 0, 0, 8)}, 1, api.ErrArg}, {4, []api.Rule{l[0], sample.Rule("A1", 8, 8, 8)}, 0, api.OK}, {2, []api.Rule{l[0], bad}, 0, api.ErrArg},
+		{3, []api.Rule{sample.Rule("A1:AMJ1023", 1, 1, 1)}, 0, api.ErrArg}, {3, []api.Rule{l[0], {Rect: api.Rect{C1: 2, R1: 1, C2: 1, R2: 1}, Rights: api.Rights{Own: 8}}}, 1, api.ErrRange}, {64, []api.Rule{sample.Rule("A1:AMJ1024", math.MaxUint64, 0, math.MaxUint64)}, 0, api.OK}, {1, []api.Rule{sample.Rule("A1:AMJ1024", 1, 1, 1)}, 0, api.OK},
 	} {
 		if k, e := acl.Check(x.users, x.rules...); k != x.at || e != x.e {
 			t.Error("Check", i, k, e, "want", x.at, x.e)
@@ -85,7 +77,7 @@ func TestPlain(t *testing.T) {
 		rules []api.Rule
 		want  []int
 	}{
-		{l, []int{0, 1, 2}}, {append(l, rule("B1:B3", 1, 0, 0)), []int{0, 2, 3}}, {append(l, rule("B1", 1, 0, 0)), []int{0, 1, 2, 3}}, {append(l, rule("B1", 1, 0, 0), rule("B3:B9", 1, 0, 0)), []int{0, 2, 3, 4}}, {append(l, rule("A1:AMJ1024", 1, 0, 0)), []int{0, 3}}, {append(l, rule("A1:AMJ512", 1, 0, 0), rule("A513:AMJ1024", 1, 0, 0)), []int{0, 3, 4}}, {l[:1], []int{0}}, {append(l, l[1]), []int{0, 2, 3}},
+		{l, []int{0, 1, 2}}, {append(l, sample.Rule("B1:B3", 1, 0, 0)), []int{0, 2, 3}}, {append(l, sample.Rule("B1", 1, 0, 0)), []int{0, 1, 2, 3}}, {append(l, sample.Rule("B1", 1, 0, 0), sample.Rule("B3:B9", 1, 0, 0)), []int{0, 2, 3, 4}}, {append(l, sample.Rule("A1:AMJ1024", 1, 0, 0)), []int{0, 3}}, {append(l, sample.Rule("A1:AMJ512", 1, 0, 0), sample.Rule("A513:AMJ1024", 1, 0, 0)), []int{0, 3, 4}}, {l[:1], []int{0}}, {append(l, l[1]), []int{0, 2, 3}},
 	} {
 		var want []api.Rule
 		for _, i := range x.want {
@@ -107,7 +99,7 @@ func TestLaws(t *testing.T) {
 	r := rand.New(rand.NewSource(1))
 	refs, _ := rect.Refs(api.Rect{C1: 1, R1: 1, C2: 5, R2: 5})
 	for range 2000 {
-		l := []api.Rule{rule("A1:AMJ1024", r.Uint64(), 0, 1)}
+		l := []api.Rule{sample.Rule("A1:AMJ1024", r.Uint64(), 0, 1)}
 		for i := range r.Intn(7) {
 			c, d := 1+r.Intn(4), 1+r.Intn(4)
 			l = append(l, api.Rule{Rect: api.Rect{C1: c, R1: d, C2: c + r.Intn(3), R2: d + r.Intn(3)}, Rights: api.Rights{Write: uint64(i + 1)}})

@@ -9,8 +9,8 @@ import (
 
 	"louvre/agg"
 	"louvre/api"
-	"louvre/dec"
 	"louvre/rect"
+	"louvre/sample"
 	"louvre/val"
 )
 
@@ -18,24 +18,7 @@ func text(s string) api.Value { return api.Value{Kind: api.Text, Text: s} }
 
 func whole(n int) api.Value { return val.Make(int64(n) * api.Unit) }
 
-// read returns the value that is written as it is shown, a text in quotes.
-func read(s string) api.Value {
-	if n, e := dec.Parse(s); e == api.OK {
-		return val.Make(n)
-	}
-	if code, e := val.Code(s); e == api.OK {
-		return val.Fail(code)
-	}
-	switch s {
-	case "TRUE", "FALSE":
-		return val.Truth(s == "TRUE")
-	case "blank":
-		return api.Value{}
-	}
-	return text(strings.Trim(s, "\""))
-}
-
-func one(s string) api.Arg { return api.Arg{V: read(s)} }
+func one(s string) api.Arg { return api.Arg{V: sample.Value(s)} }
 
 // area returns the area of a range whose addresses have these values, row by row; the rest are blank.
 func area(r, values string) api.Arg {
@@ -46,7 +29,7 @@ func area(r, values string) api.Arg {
 	}
 	a := api.Arg{Wide: true, Area: api.Area{Rect: x}}
 	for i, w := range strings.Fields(values) {
-		if v := read(w); v.Kind != api.Blank {
+		if v := sample.Value(w); v.Kind != api.Blank {
 			a.Area.Cells = append(a.Area.Cells, api.Cell{At: l[i], V: v})
 		}
 	}
@@ -95,7 +78,7 @@ func TestCall(t *testing.T) {
 		{api.FnIndex, "area 2", "\"x\""}, {api.FnIndex, "area 2 1", "blank"}, {api.FnIndex, "area 3 1", "#REF!"}, {api.FnIndex, "area 2 2", "1.5"}, {api.FnIndex, "area 1 3", "#REF!"}, {api.FnIndex, "area 0", "#REF!"}, {api.FnIndex, "area 5", "#REF!"}, {api.FnIndex, "area 4.9", "1.5"}, {api.FnIndex, "area 0.9", "#REF!"}, {api.FnIndex, "mixed 2 3", "#REF!"}, {api.FnIndex, "mixed 1 2", "\"5\""}, {api.FnIndex, "bad #DIV/0! #REF!", "#DIV/0!"}, {api.FnIndex, "bad 1 \"x\"", "#VALUE!"}, {api.FnIndex, "bad 2", "#N/A"}, {api.FnIndex, "7 1", "7"}, {api.FnIndex, "7 1 1", "7"}, {api.FnIndex, "7 2", "#REF!"}, {api.FnIndex, "blank 1", "blank"}, {api.FnIndex, "#N/A 1", "#N/A"}, {api.FnIndex, "area -922337203685477", "#REF!"}, {api.FnIndex, "area 922337203685477 922337203685477", "#REF!"}, {api.FnIndex, "area 1 0", "#REF!"}, {api.FnIndex, "area 0 1", "#REF!"}, {api.FnIndex, "mixed 4", "\"\""},
 		{api.FnDSum, "area", "4.5"}, {api.FnDCount, "area", "2"}, {api.FnDAvg, "area", "2.25"}, {api.FnDMin, "area", "1.5"}, {api.FnDMax, "area", "3"}, {api.FnDSum, "none", "0"}, {api.FnDAvg, "none", "#DIV/0!"}, {api.FnDMin, "none", "0"}, {api.FnDCount, "bad", "2"}, {api.FnDMax, "bad", "#N/A"}, {api.FnDSum, "single", "7"},
 	} {
-		if v, e := agg.Call(x.fn, args(x.args)...); v != read(x.want) || e != api.OK {
+		if v, e := agg.Call(x.fn, args(x.args)...); v != sample.Value(x.want) || e != api.OK {
 			t.Error("Call", x, val.Show(v), e)
 		}
 	}
@@ -188,7 +171,7 @@ func TestNumbers(t *testing.T) {
 		}
 	}
 	for s, want := range map[string]string{"1 bad \"x\"": "#N/A", "\"x\" bad": "#VALUE!", "mixed": "#REF!", "\"9999999999999999\"": "#NUM!", "#CYCLE!": "#CYCLE!"} {
-		if l, fail, ok := agg.Numbers(args(s)...); l != nil || fail != read(want) || ok {
+		if l, fail, ok := agg.Numbers(args(s)...); l != nil || fail != sample.Value(want) || ok {
 			t.Error("Numbers", s, l, fail, ok)
 		}
 	}
@@ -256,15 +239,15 @@ func TestLaws(t *testing.T) {
 // checkMatch checks MATCH, COUNTIF and INDEX against the list of all values.
 func checkMatch(t *testing.T, values []string, all, v api.Arg, call func(fn uint8, l ...api.Arg) api.Value) {
 	t.Helper()
-	n, first := 0, read("#N/A")
+	n, first := 0, sample.Value("#N/A")
 	for i, w := range values {
-		if c, e := val.Compare(read(w), v.V); e == api.OK && c == 0 {
+		if c, e := val.Compare(sample.Value(w), v.V); e == api.OK && c == 0 {
 			n++
 			if first.Kind == api.Error {
 				first = whole(i + 1)
 			}
 		}
-		if call(api.FnIndex, all, api.Arg{V: whole(i + 1)}) != read(w) || call(api.FnIndex, all, api.Arg{V: whole(i/3 + 1)}, api.Arg{V: whole(i%3 + 1)}) != read(w) {
+		if call(api.FnIndex, all, api.Arg{V: whole(i + 1)}) != sample.Value(w) || call(api.FnIndex, all, api.Arg{V: whole(i/3 + 1)}, api.Arg{V: whole(i%3 + 1)}) != sample.Value(w) {
 			t.Fatal("INDEX", values, i)
 		}
 	}

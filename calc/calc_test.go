@@ -12,12 +12,9 @@ import (
 	"louvre/api"
 	"louvre/book"
 	"louvre/calc"
-	"louvre/cycle"
 	"louvre/denote"
-	"louvre/deps"
 	"louvre/entry"
 	"louvre/grant"
-	"louvre/reach"
 	"louvre/rect"
 	"louvre/sample"
 	"louvre/val"
@@ -187,21 +184,6 @@ func TestNil(t *testing.T) {
 	}
 }
 
-// recalculated returns the cells that chapter 33 says are evaluated after a range was written.
-func recalculated(b api.Book, r api.Rect) []api.Ref {
-	g, _ := deps.New(b.Entries...)
-	circular, _ := cycle.Circular(g)
-	above, _ := reach.Above(g, r)
-	var l []api.Ref
-	for _, at := range g.Formulas() {
-		if (rect.Has(r, at) || slices.Contains(above, at)) && !slices.Contains(circular, at) {
-			l = append(l, at)
-		}
-	}
-	l, _ = cycle.Among(g, l...)
-	return l
-}
-
 // P33.2 to P33.8: after any calls everything is as if anew.
 func TestRandom(t *testing.T) {
 	r := rand.New(rand.NewSource(1))
@@ -219,13 +201,13 @@ func TestRandom(t *testing.T) {
 				got, e = g.Set(api.Ref{Col: x.Rect.C2, Row: x.Rect.R2}, x.Input)
 				if name, f := rect.Format(x.Rect); e == api.OK && f == api.OK {
 					b = sample.With(b, name+" "+x.Input)
-					want = recalculated(b, x.Rect)
+					want = sample.Due(b, x.Rect)
 				}
 			case api.OpClear:
 				got, e = g.Clear(x.Rect)
 				if e == api.OK {
 					b.Entries = slices.DeleteFunc(slices.Clone(b.Entries), func(y api.Entry) bool { return rect.Has(x.Rect, y.At) })
-					want = recalculated(b, x.Rect)
+					want = sample.Due(b, x.Rect)
 				}
 			case api.OpRule:
 				if e = g.Rule(api.Rule{Rect: x.Rect, Rights: x.Rights}); e == api.OK {
@@ -284,7 +266,7 @@ func TestOrder(t *testing.T) {
 			t.Fatal("entries in another order:", b)
 		}
 		for _, x := range b.Entries {
-			if l, e := g.Set(x.At, x.Input); e != api.OK || !slices.Equal(l, recalculated(b, rect.One(x.At))) || !same(g.Valuation(), want) {
+			if l, e := g.Set(x.At, x.Input); e != api.OK || !slices.Equal(l, sample.Due(b, rect.One(x.At))) || !same(g.Valuation(), want) {
 				t.Fatal("the same input:", b, x, sample.Text(l...), e)
 			}
 		}

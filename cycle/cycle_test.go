@@ -4,7 +4,6 @@ import (
 	"math"
 	"math/rand"
 	"slices"
-	"strings"
 	"testing"
 
 	"louvre/addr"
@@ -13,45 +12,8 @@ import (
 	"louvre/deps"
 	"louvre/reach"
 	"louvre/rect"
+	"louvre/sample"
 )
-
-func ref(s string) api.Ref {
-	r, e := addr.Parse(s)
-	if e != api.OK {
-		panic(s)
-	}
-	return r
-}
-
-func refs(s string) []api.Ref {
-	var l []api.Ref
-	for _, w := range strings.Fields(s) {
-		l = append(l, ref(w))
-	}
-	return l
-}
-
-func text(l []api.Ref) string {
-	var words []string
-	for _, r := range l {
-		s, _ := addr.Format(r)
-		words = append(words, s)
-	}
-	return strings.Join(words, " ")
-}
-
-// graph reads formulas: A1 =B1;A2 =A1
-func graph(t *testing.T, s string) *deps.Graph {
-	t.Helper()
-	g, _ := deps.New()
-	for _, w := range strings.Split(s, ";") {
-		at, input, _ := strings.Cut(w, " ")
-		if e := g.Set(ref(at), input); e != api.OK {
-			t.Fatal(s, e)
-		}
-	}
-	return g
-}
 
 const example = "A2 =A1+B1;A3 =DSUM(B1:B3);A4 =IFERROR(A3,0)+1"
 
@@ -61,15 +23,15 @@ func TestExamples(t *testing.T) {
 		example: {"", "", "A2 A3 A4"}, example + ";B3 =A4": {"A3 B3 A4", "A3 B3 A4", "A2"}, example + ";B3 =A4;B4 =A3": {"A3 B3 A4", "A3 B3 A4 B4", "A2"}, example + ";A1 =A4": {"", "", "A3 A4 A1 A2"},
 		"A1 5": {"", "", ""}, "A1 =A1": {"A1", "A1", ""}, "A1 =SUM(A1:B2)": {"A1", "A1", ""}, "C1 =IFERROR(A1,0);A1 =A1;B1 =C1": {"A1", "A1 B1 C1", ""}, "A1 =C1;C1 =5": {"", "", "C1 A1"},
 	} {
-		g := graph(t, s)
-		if l, e := cycle.Loops(g); text(l) != want[0] || e != api.OK {
-			t.Error("Loops", s, text(l), e)
+		g := sample.Graph(s)
+		if l, e := cycle.Loops(g); sample.Text(l...) != want[0] || e != api.OK {
+			t.Error("Loops", s, sample.Text(l...), e)
 		}
-		if l, e := cycle.Circular(g); text(l) != want[1] || e != api.OK {
-			t.Error("Circular", s, text(l), e)
+		if l, e := cycle.Circular(g); sample.Text(l...) != want[1] || e != api.OK {
+			t.Error("Circular", s, sample.Text(l...), e)
 		}
-		if l, e := cycle.Order(g); text(l) != want[2] || e != api.OK {
-			t.Error("Order", s, text(l), e)
+		if l, e := cycle.Order(g); sample.Text(l...) != want[2] || e != api.OK {
+			t.Error("Order", s, sample.Text(l...), e)
 		}
 	}
 	for _, x := range []struct {
@@ -79,8 +41,8 @@ func TestExamples(t *testing.T) {
 		{example, "A4 A2", "A2 A4", api.OK}, {example, "A4 A3", "A3 A4", api.OK}, {example, "", "", api.OK}, {example, "A1", "", api.ErrNone}, {example, "A4 A4", "", api.ErrHave}, {example, "A4 A4 A1", "", api.ErrHave}, {example, "A4 A1 A4", "", api.ErrNone}, {example + ";B3 =A4", "A4", "", api.ErrCycle}, {example + ";B3 =A4", "A2 A3", "", api.ErrCycle}, {example + ";B3 =A4", "A2 A2 A3", "", api.ErrHave}, {example + ";B3 =A4", "A2", "A2", api.OK},
 		{"A1 =Z9;Z9 =C1;C1 =5;B1 =6", "A1 B1 C1", "B1 C1 A1", api.OK}, {"A1 =Z9;Z9 =C1;C1 =5;B1 =6", "C1 A1", "C1 A1", api.OK}, {"A1 =Z9;Z9 =5;B1 =6", "B1 A1", "A1 B1", api.OK},
 	} {
-		if l, e := cycle.Among(graph(t, x.g), refs(x.l)...); text(l) != x.want || e != x.e {
-			t.Error("Among", x, text(l), e)
+		if l, e := cycle.Among(sample.Graph(x.g), sample.Refs(x.l)...); sample.Text(l...) != x.want || e != x.e {
+			t.Error("Among", x, sample.Text(l...), e)
 		}
 	}
 }
@@ -92,12 +54,12 @@ func TestFaults(t *testing.T) {
 			t.Error(name, l, e)
 		}
 	}
-	g := graph(t, example+";B3 =A4")
+	g := sample.Graph(example + ";B3 =A4")
 	for _, at := range []api.Ref{{}, {Col: 1025, Row: 1}, {Col: 1, Row: math.MinInt}} {
-		if l, e := cycle.Among(g, ref("A2"), at, ref("A4")); l != nil || e != api.ErrRange {
+		if l, e := cycle.Among(g, sample.Ref("A2"), at, sample.Ref("A4")); l != nil || e != api.ErrRange {
 			t.Error("Among", at, l, e)
 		}
-		if l, e := cycle.Among(g, ref("A4"), at); l != nil || e != api.ErrCycle {
+		if l, e := cycle.Among(g, sample.Ref("A4"), at); l != nil || e != api.ErrCycle {
 			t.Error("Among", at, l, e)
 		}
 	}
@@ -139,22 +101,22 @@ func TestRandom(t *testing.T) {
 				rest = append(rest, at)
 			}
 		}
-		if l, e := cycle.Loops(g); text(l) != text(loops) || e != api.OK {
-			t.Fatal("Loops", text(l), text(loops), e)
+		if l, e := cycle.Loops(g); sample.Text(l...) != sample.Text(loops...) || e != api.OK {
+			t.Fatal("Loops", sample.Text(l...), sample.Text(loops...), e)
 		}
-		if l, e := cycle.Circular(g); text(l) != text(circular) || e != api.OK {
-			t.Fatal("Circular", text(l), text(circular), e)
+		if l, e := cycle.Circular(g); sample.Text(l...) != sample.Text(circular...) || e != api.OK {
+			t.Fatal("Circular", sample.Text(l...), sample.Text(circular...), e)
 		}
 		check := func(some []api.Ref, got []api.Ref, e api.Errno) {
 			left := slices.Clone(some)
 			for i, at := range got {
 				if want := next(left, reaches); at != want {
-					t.Fatal("the order of evaluation:", text(some), text(got), "at", i, text([]api.Ref{want}))
+					t.Fatal("the order of evaluation:", sample.Text(some...), sample.Text(got...), "at", i, sample.Text(want))
 				}
 				left = slices.DeleteFunc(left, func(b api.Ref) bool { return b == at })
 			}
 			if len(left) > 0 || e != api.OK {
-				t.Fatal("the order of evaluation:", text(some), text(got), e)
+				t.Fatal("the order of evaluation:", sample.Text(some...), sample.Text(got...), e)
 			}
 		}
 		l, e := cycle.Order(g)

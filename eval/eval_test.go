@@ -10,33 +10,16 @@ import (
 
 	"louvre/addr"
 	"louvre/api"
-	"louvre/dec"
 	"louvre/eval"
 	"louvre/parse"
 	"louvre/rect"
 	"louvre/refs"
+	"louvre/sample"
 	"louvre/sheet"
 	"louvre/show"
 	"louvre/tree"
 	"louvre/val"
 )
-
-// read returns the value that is written as it is shown, a text in quotes.
-func read(s string) api.Value {
-	if n, e := dec.Parse(s); e == api.OK {
-		return val.Make(n)
-	}
-	if code, e := val.Code(s); e == api.OK {
-		return val.Fail(code)
-	}
-	switch s {
-	case "TRUE", "FALSE":
-		return val.Truth(s == "TRUE")
-	case "blank":
-		return api.Value{}
-	}
-	return api.Value{Kind: api.Text, Text: strings.Trim(s, "\"")}
-}
 
 // cells returns a sheet: A1 3 B1 "x".
 func cells(t *testing.T, s string) *sheet.Sheet {
@@ -45,7 +28,7 @@ func cells(t *testing.T, s string) *sheet.Sheet {
 	words := strings.Fields(s)
 	for i := 0; i < len(words); i += 2 {
 		at, _ := addr.Parse(words[i])
-		l = append(l, api.Cell{At: at, V: read(words[i+1])})
+		l = append(l, api.Cell{At: at, V: sample.Value(words[i+1])})
 	}
 	x, e := sheet.New(l...)
 	if e != api.OK {
@@ -75,7 +58,7 @@ func TestValue(t *testing.T) {
 		"DCOUNT(A1)": "1", "DAVG(A1:B2)": "2.25", "DMIN(E1)": "-2", "DMAX(A1:C1)": "3", "DSUM(C2)": "#N/A", "DSUM(Z9)": "0", "C2&#REF!": "#N/A", "1/0&C2": "#DIV/0!", "D1": "#CYCLE!", "IFERROR(D1,7)": "7", "ISERROR(C2)": "TRUE", "ISNUMBER(A1)": "TRUE", "ISTEXT(B1)": "TRUE", "NOT(C1)": "FALSE", "XOR(C1,C1)": "FALSE",
 		"MAX(A1:B2)-MIN(A1:B2)": "1.5", "PRODUCT(A1:B2,2)": "9", "AVERAGE(A1:B2)": "2.25", "MOD(7,A1)": "1", "POWER(A1,2)": "9", "SQRT(A1*A1)": "3", "INT(-B2)": "-2", "TRUNC(-B2)": "-1", "SIGN(E1)": "-1", "VALUE(\"2\")+VALUE(A1)": "5", "EXACT(B1,\"X\")": "FALSE", "FIND(\"b\",\"abc\")": "2", "REPT(B1,A1)": "\"xxx\"", "TRIM(\" a \")": "\"a\"", "UPPER(B1)&LOWER(\"Y\")": "\"Xy\"", "MID(\"abc\",2,1)": "\"b\"", "RIGHT(\"abc\")": "\"c\"", "CONCAT(A1,B1,C1)": "\"3xTRUE\"", "OR(FALSE,A2)": "FALSE",
 	} {
-		if v, e := eval.Value(formula(t, f), s); v != read(want) || e != api.OK {
+		if v, e := eval.Value(formula(t, f), s); v != sample.Value(want) || e != api.OK {
 			t.Errorf("%s: %s, %d; want %s", f, val.Show(v), e, want)
 		}
 	}
@@ -88,7 +71,7 @@ func TestNodes(t *testing.T) {
 		x := formula(t, f)
 		var l []api.Value
 		for _, w := range strings.Fields(want) {
-			l = append(l, read(w))
+			l = append(l, sample.Value(w))
 		}
 		if got, e := eval.Nodes(x, s); !slices.Equal(got, l) || e != api.OK {
 			t.Error("Nodes", f, got, e)

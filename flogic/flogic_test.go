@@ -3,37 +3,15 @@ package flogic_test
 import (
 	"math/rand"
 	"slices"
-	"strings"
 	"testing"
 
 	"louvre/api"
 	"louvre/flogic"
+	"louvre/sample"
 	"louvre/val"
 )
 
 func text(s string) api.Value { return api.Value{Kind: api.Text, Text: s} }
-
-// list reads values: numbers of one digit, bools, errors, blank, and texts.
-func list(s string) []api.Value {
-	var l []api.Value
-	for _, w := range strings.Fields(s) {
-		code, e := val.Code(w)
-		n := val.ToNumber(text(w))
-		switch {
-		case e == api.OK:
-			l = append(l, val.Fail(code))
-		case n.Kind == api.Number:
-			l = append(l, n)
-		case w == "TRUE" || w == "FALSE":
-			l = append(l, val.Truth(w == "TRUE"))
-		case w == "blank":
-			l = append(l, api.Value{})
-		default:
-			l = append(l, text(strings.Trim(w, "'")))
-		}
-	}
-	return l
-}
 
 // P15.1
 func TestCall(t *testing.T) {
@@ -51,7 +29,7 @@ func TestCall(t *testing.T) {
 		{api.FnIsBlank, "#N/A", "#N/A"}, {api.FnIsBlank, "blank", "TRUE"}, {api.FnIsBlank, "0", "FALSE"}, {api.FnIsBlank, "''", "FALSE"}, {api.FnIsNumber, "0", "TRUE"}, {api.FnIsNumber, "TRUE", "FALSE"}, {api.FnIsNumber, "blank", "FALSE"}, {api.FnIsNumber, "#REF!", "#REF!"}, {api.FnIsText, "x", "TRUE"}, {api.FnIsText, "''", "TRUE"}, {api.FnIsText, "1", "FALSE"}, {api.FnIsText, "blank", "FALSE"}, {api.FnIsText, "#NUM!", "#NUM!"},
 		{api.FnChoose, "2.9 a b", "b"}, {api.FnChoose, "3 a b", "#VALUE!"}, {api.FnChoose, "1 a #N/A", "#N/A"}, {api.FnChoose, "0.9 a b", "#VALUE!"}, {api.FnChoose, "-1 a b", "#VALUE!"}, {api.FnChoose, "x a #N/A", "#VALUE!"}, {api.FnChoose, "9 #REF! #N/A", "#REF!"}, {api.FnChoose, "TRUE a b", "a"}, {api.FnChoose, "1 blank", "blank"}, {api.FnChoose, "922337203685477 a", "#VALUE!"}, {api.FnChoose, "15 1 2 3 4 5 6 7 8 9 10 11 12 13 14 15", "15"}, {api.FnChoose, "blank a", "#VALUE!"},
 	} {
-		if v, e := flogic.Call(x.fn, list(x.args)...); v != list(x.want)[0] || e != api.OK {
+		if v, e := flogic.Call(x.fn, sample.Values(x.args)...); v != sample.Values(x.want)[0] || e != api.OK {
 			t.Error("Call", x, val.Show(v), e)
 		}
 	}
@@ -88,7 +66,7 @@ func TestFaults(t *testing.T) {
 // P15.2 to P15.5
 func TestLaws(t *testing.T) {
 	r := rand.New(rand.NewSource(1))
-	all := list("blank TRUE FALSE 0 1 2.5 -1 x 'true' '' '3' #N/A #DIV/0! #CYCLE!")
+	all := sample.Values("blank TRUE FALSE 0 1 2.5 -1 x 'true' '' '3' #N/A #DIV/0! #CYCLE!")
 	pick := func() api.Value { return all[r.Intn(len(all))] }
 	call := func(fn uint8, args ...api.Value) api.Value {
 		v, e := flogic.Call(fn, args...)

@@ -8,29 +8,12 @@ import (
 	"testing"
 
 	"louvre/api"
-	"louvre/dec"
 	"louvre/fnum"
+	"louvre/sample"
 	"louvre/val"
 )
 
 func text(s string) api.Value { return api.Value{Kind: api.Text, Text: s} }
-
-// read returns the value that is written as it is shown, a text in quotes.
-func read(s string) api.Value {
-	if n, e := dec.Parse(s); e == api.OK {
-		return val.Make(n)
-	}
-	if code, e := val.Code(s); e == api.OK {
-		return val.Fail(code)
-	}
-	switch s {
-	case "TRUE", "FALSE":
-		return val.Truth(s == "TRUE")
-	case "blank":
-		return api.Value{}
-	}
-	return text(strings.Trim(s, "\""))
-}
 
 // list reads values with commas between them.
 func list(s string) []api.Value {
@@ -39,7 +22,7 @@ func list(s string) []api.Value {
 		return nil
 	}
 	for _, w := range strings.Split(s, ",") {
-		l = append(l, read(w))
+		l = append(l, sample.Value(w))
 	}
 	return l
 }
@@ -61,7 +44,7 @@ func TestCall(t *testing.T) {
 		{api.FnPower, "2,10", "1024"}, {api.FnPower, "2,-2", "0.25"}, {api.FnPower, "0,0", "1"}, {api.FnPower, "0,-1", "#DIV/0!"}, {api.FnPower, "2,0.5", "#NUM!"}, {api.FnPower, "10,20", "#NUM!"}, {api.FnPower, "0,-0.5", "#NUM!"}, {api.FnPower, "0,-2000", "#DIV/0!"}, {api.FnPower, "1,1001", "#NUM!"}, {api.FnPower, "0.01,-3", "#NUM!"}, {api.FnPower, "1,922337203685477", "#NUM!"},
 		{api.FnSqrt, "2", "1.4142"}, {api.FnSqrt, "-1", "#NUM!"}, {api.FnSqrt, "0", "0"}, {api.FnSqrt, "#CYCLE!", "#CYCLE!"},
 	} {
-		if v, e := fnum.Call(x.fn, list(x.args)...); v != read(x.want) || e != api.OK {
+		if v, e := fnum.Call(x.fn, list(x.args)...); v != sample.Value(x.want) || e != api.OK {
 			t.Error("Call", x, val.Show(v), e)
 		}
 	}
@@ -111,21 +94,21 @@ func TestBinary(t *testing.T) {
 		{"1", api.Eq, "1", "TRUE"}, {"1", api.Eq, "\"1\"", "FALSE"}, {"\"a\"", api.Eq, "\"A\"", "TRUE"}, {"blank", api.Eq, "0", "TRUE"}, {"blank", api.Eq, "\"\"", "TRUE"}, {"1", api.Ne, "2", "TRUE"}, {"1", api.Ne, "1", "FALSE"}, {"9", api.Lt, "\"1\"", "TRUE"}, {"\"x\"", api.Lt, "FALSE", "TRUE"}, {"2", api.Lt, "2", "FALSE"}, {"2", api.Le, "2", "TRUE"}, {"3", api.Le, "2", "FALSE"}, {"3", api.Gt, "2", "TRUE"}, {"2", api.Gt, "2", "FALSE"}, {"2", api.Ge, "2", "TRUE"}, {"1", api.Ge, "2", "FALSE"},
 		{"#N/A", api.Eq, "#REF!", "#N/A"}, {"1", api.Lt, "#REF!", "#REF!"}, {"#N/A", api.Eq, "#N/A", "#N/A"},
 	} {
-		if v, e := fnum.Binary(x.op, read(x.a), read(x.b)); v != read(x.want) || e != api.OK {
+		if v, e := fnum.Binary(x.op, sample.Value(x.a), sample.Value(x.b)); v != sample.Value(x.want) || e != api.OK {
 			t.Error("Binary", x, val.Show(v), e)
 		}
 	}
 	for _, op := range []int64{0, api.Percent, -1, math.MaxInt64, math.MinInt64} {
-		if v, e := fnum.Binary(op, read("1"), read("1")); v != (api.Value{}) || e != api.ErrArg {
+		if v, e := fnum.Binary(op, sample.Value("1"), sample.Value("1")); v != (api.Value{}) || e != api.ErrArg {
 			t.Error("Binary", op, v, e)
 		}
 	}
 	for _, o := range odd {
 		for op := api.Add; op <= api.Ge; op++ {
-			if v, e := fnum.Binary(op, o, read("#N/A")); v != (api.Value{}) || e != api.ErrArg {
+			if v, e := fnum.Binary(op, o, sample.Value("#N/A")); v != (api.Value{}) || e != api.ErrArg {
 				t.Error("Binary", op, o, v, e)
 			}
-			if v, e := fnum.Binary(op, read("#N/A"), o); v != (api.Value{}) || e != api.ErrArg {
+			if v, e := fnum.Binary(op, sample.Value("#N/A"), o); v != (api.Value{}) || e != api.ErrArg {
 				t.Error("Binary", op, o, v, e)
 			}
 		}
@@ -135,10 +118,10 @@ func TestBinary(t *testing.T) {
 // P13.3
 func TestSigns(t *testing.T) {
 	for s, want := range map[string][2]string{"50": {"-50", "0.5"}, "0": {"0", "0"}, "-0.005": {"0.005", "-0.0001"}, "TRUE": {"-1", "0.01"}, "blank": {"0", "0"}, "\"7\"": {"-7", "0.07"}, "\"x\"": {"#VALUE!", "#VALUE!"}, "#N/A": {"#N/A", "#N/A"}, "922337203685477.5807": {"-922337203685477.5807", "9223372036854.7758"}} {
-		if v := fnum.Neg(read(s)); v != read(want[0]) {
+		if v := fnum.Neg(sample.Value(s)); v != sample.Value(want[0]) {
 			t.Error("Neg", s, val.Show(v))
 		}
-		if v := fnum.Percent(read(s)); v != read(want[1]) {
+		if v := fnum.Percent(sample.Value(s)); v != sample.Value(want[1]) {
 			t.Error("Percent", s, val.Show(v))
 		}
 	}

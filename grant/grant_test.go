@@ -9,28 +9,21 @@ import (
 	"louvre/api"
 	"louvre/grant"
 	"louvre/rect"
+	"louvre/sample"
 )
 
-func read(s string) api.Rect {
-	r, e := rect.Parse(s)
-	if e != api.OK {
-		panic(s)
-	}
-	return r
-}
-
 func rule(s string, own uint64) api.Rule {
-	return api.Rule{Rect: read(s), Rights: api.Rights{Own: own}}
+	return sample.Rule(s, 0, 0, own)
 }
 
 // example is the rules of chapter 19 and the grants of the chapter.
 func example() ([]api.Rule, []api.Grant) {
 	rules := []api.Rule{
-		{Rect: read("A1:AMJ1024"), Rights: api.Rights{Read: 7, Write: 7, Own: 1}},
-		{Rect: read("B1:B3"), Rights: api.Rights{Read: 1, Write: 1, Own: 1}},
-		{Rect: read("B2:C2"), Rights: api.Rights{Read: 2, Own: 1}},
+		{Rect: sample.Rect("A1:AMJ1024"), Rights: api.Rights{Read: 7, Write: 7, Own: 1}},
+		{Rect: sample.Rect("B1:B3"), Rights: api.Rights{Read: 1, Write: 1, Own: 1}},
+		{Rect: sample.Rect("B2:C2"), Rights: api.Rights{Read: 2, Own: 1}},
 	}
-	return rules, []api.Grant{{Rect: read("B1:B3"), Fns: 1, To: 2}, {Rect: read("B1:B3"), Fns: 3, To: 4}, {Rect: read("B1:B3"), Fns: 1, To: 4, By: 1}}
+	return rules, []api.Grant{{Rect: sample.Rect("B1:B3"), Fns: 1, To: 2}, {Rect: sample.Rect("B1:B3"), Fns: 3, To: 4}, {Rect: sample.Rect("B1:B3"), Fns: 1, To: 4, By: 1}}
 }
 
 // P21.1
@@ -92,9 +85,9 @@ func TestFor(t *testing.T) {
 		by     []int
 		e      api.Errno
 	}{
-		{api.FnDSum, read("B1:B3"), rules, l, 6, []int{0, 1}, api.OK}, {api.FnDCount, read("B1:B3"), rules, l, 4, []int{1}, api.OK}, {api.FnDSum, read("B1:B2"), rules, l, 0, nil, api.OK}, {api.FnDMax, read("B1:B3"), rules, l, 0, nil, api.OK}, {api.FnDSum, read("B1:B3"), rules, nil, 0, nil, api.OK},
-		{api.FnDSum, read("B1:B3"), append(rules, rule("A1:C3", 2)), l, 4, []int{2}, api.OK}, {api.FnDMin, read("C9"), rules, []api.Grant{{Rect: read("C9"), Fns: 8, To: 0}}, 0, []int{0}, api.OK}, {api.FnDAvg, read("C9"), rules, []api.Grant{{Rect: read("C9"), Fns: 31, To: 1}, {Rect: read("C9"), Fns: 31, To: 2, Revoked: true}}, 1, []int{0}, api.OK},
-		{api.FnSum, read("B1:B3"), rules, l, 0, nil, api.ErrArg}, {0, api.Rect{}, nil, nil, 0, nil, api.ErrArg}, {51, read("A1"), rules, l, 0, nil, api.ErrArg}, {api.FnDSum, api.Rect{}, nil, nil, 0, nil, api.ErrRange}, {api.FnDSum, read("A1"), nil, []api.Grant{{}}, 0, nil, api.ErrArg}, {api.FnDSum, read("A1"), []api.Rule{rules[0], {}}, []api.Grant{{Rect: read("A1")}}, 0, nil, api.ErrRange}, {api.FnDSum, read("A1"), rules, []api.Grant{{}}, 0, nil, api.ErrRange}, {api.FnDSum, read("A1"), rules, []api.Grant{{Rect: read("A1")}}, 0, nil, api.ErrArg}, {api.FnDSum, read("A1"), rules, slices.Repeat(l, 22), 0, nil, api.ErrLong},
+		{api.FnDSum, sample.Rect("B1:B3"), rules, l, 6, []int{0, 1}, api.OK}, {api.FnDCount, sample.Rect("B1:B3"), rules, l, 4, []int{1}, api.OK}, {api.FnDSum, sample.Rect("B1:B2"), rules, l, 0, nil, api.OK}, {api.FnDMax, sample.Rect("B1:B3"), rules, l, 0, nil, api.OK}, {api.FnDSum, sample.Rect("B1:B3"), rules, nil, 0, nil, api.OK},
+		{api.FnDSum, sample.Rect("B1:B3"), append(rules, rule("A1:C3", 2)), l, 4, []int{2}, api.OK}, {api.FnDMin, sample.Rect("C9"), rules, []api.Grant{{Rect: sample.Rect("C9"), Fns: 8, To: 0}}, 0, []int{0}, api.OK}, {api.FnDAvg, sample.Rect("C9"), rules, []api.Grant{{Rect: sample.Rect("C9"), Fns: 31, To: 1}, {Rect: sample.Rect("C9"), Fns: 31, To: 2, Revoked: true}}, 1, []int{0}, api.OK},
+		{api.FnSum, sample.Rect("B1:B3"), rules, l, 0, nil, api.ErrArg}, {0, api.Rect{}, nil, nil, 0, nil, api.ErrArg}, {51, sample.Rect("A1"), rules, l, 0, nil, api.ErrArg}, {api.FnDSum, api.Rect{}, nil, nil, 0, nil, api.ErrRange}, {api.FnDSum, sample.Rect("A1"), nil, []api.Grant{{}}, 0, nil, api.ErrArg}, {api.FnDSum, sample.Rect("A1"), []api.Rule{rules[0], {}}, []api.Grant{{Rect: sample.Rect("A1")}}, 0, nil, api.ErrRange}, {api.FnDSum, sample.Rect("A1"), rules, []api.Grant{{}}, 0, nil, api.ErrRange}, {api.FnDSum, sample.Rect("A1"), rules, []api.Grant{{Rect: sample.Rect("A1")}}, 0, nil, api.ErrArg}, {api.FnDSum, sample.Rect("A1"), rules, slices.Repeat(l, 22), 0, nil, api.ErrLong},
 	} {
 		if to, by, e := grant.For(x.fn, x.r, x.rules, x.grants); to != x.to || !slices.Equal(by, x.by) || e != x.e {
 			t.Error("For", i, to, by, e)
@@ -117,7 +110,7 @@ func TestNames(t *testing.T) {
 // P21.5, P21.6
 func TestLaws(t *testing.T) {
 	r := rand.New(rand.NewSource(1))
-	ranges := []api.Rect{read("A1"), read("A1:B2"), read("B2:C3"), read("C3")}
+	ranges := []api.Rect{sample.Rect("A1"), sample.Rect("A1:B2"), sample.Rect("B2:C3"), sample.Rect("C3")}
 	random := func() []api.Grant {
 		l := make([]api.Grant, r.Intn(5))
 		for i := range l {

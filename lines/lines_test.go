@@ -144,36 +144,12 @@ func TestLimits(t *testing.T) {
 	}
 }
 
-// random returns a script, after some operations were performed on its book.
-func random(r *rand.Rand) api.Script {
-	s, _ := session.New(sample.Random(r.Intn))
-	users := s.Book().Users
-	for n := range r.Intn(14) {
-		x := sample.Op(r.Intn, users)
-		if n < users {
-			x = api.Op{Kind: api.OpLogin, User: n}
-		}
-		s.Do(x)
-	}
-	x := api.Script{Book: s.Book()}
-	for range r.Intn(9) {
-		y := sample.Op(r.Intn, users)
-		switch r.Intn(9) {
-		case 0:
-			y = api.Op{Kind: uint8(r.Intn(256)), User: int(r.Uint64()), Rect: api.Rect{C1: -r.Intn(300), R2: int(r.Uint64())}, Input: string([]byte{byte(r.Intn(256)), 0, 255}), Rights: api.Rights{Write: r.Uint64()}, Fns: uint8(r.Intn(256)), To: r.Uint64() >> r.Intn(64), Index: -r.Intn(3)}
-		case 1:
-			y.Rights.Own, y.Index = 1<<63, math.MinInt
-		}
-		x.Ops = append(x.Ops, y)
-	}
-	return x
-}
-
 // P42.4, P42.5
 func TestRandom(t *testing.T) {
 	r := rand.New(rand.NewSource(1))
 	for range 300 {
-		x := random(r)
+		b := sample.Used(r.Intn)
+		x := api.Script{Book: b, Ops: sample.Ops(r.Intn, b.Users)}
 		s, e := lines.Format(x)
 		y, n, f := lines.Parse(s)
 		if e != api.OK || f != api.OK || n != 0 || !script.Equal(x, y) {

@@ -13,68 +13,31 @@ import (
 	"louvre/deps"
 	"louvre/reach"
 	"louvre/rect"
+	"louvre/sample"
 )
-
-func ref(s string) api.Ref {
-	r, e := addr.Parse(s)
-	if e != api.OK {
-		panic(s)
-	}
-	return r
-}
-
-func area(s string) api.Rect {
-	r, e := rect.Parse(s)
-	if e != api.OK {
-		panic(s)
-	}
-	return r
-}
-
-func text(l []api.Ref) string {
-	var words []string
-	for _, r := range l {
-		s, _ := addr.Format(r)
-		words = append(words, s)
-	}
-	return strings.Join(words, " ")
-}
-
-// graph reads formulas: A1 =B1;A2 =A1
-func graph(t *testing.T, s string) *deps.Graph {
-	t.Helper()
-	g, _ := deps.New()
-	for _, w := range strings.Split(s, ";") {
-		at, input, _ := strings.Cut(w, " ")
-		if e := g.Set(ref(at), input); e != api.OK {
-			t.Fatal(s, e)
-		}
-	}
-	return g
-}
 
 const example = "A1 5;A2 =A1+B1;A3 =DSUM(B1:B3);A4 =IFERROR(A3,0)+1"
 
 // The table of examples.
 func TestExamples(t *testing.T) {
-	g, circle := graph(t, example), graph(t, example+";B3 =A4")
+	g, circle := sample.Graph(example), sample.Graph(example+";B3 =A4")
 	for _, x := range []struct {
 		g          *deps.Graph
 		from, want string
 	}{{g, "B2", "A3 A4"}, {g, "B1 A1", "A2 A3 A4"}, {g, "", ""}, {g, "A4", ""}, {g, "A1:AMJ1024", "A2 A3 A4"}, {g, "C1 C2", ""}, {g, "B2 B2 B2", "A3 A4"}, {circle, "A4", "A3 B3 A4"}, {circle, "B3", "A3 B3 A4"}} {
 		var l []api.Rect
 		for _, w := range strings.Fields(x.from) {
-			l = append(l, area(w))
+			l = append(l, sample.Rect(w))
 		}
-		if got, e := reach.Above(x.g, l...); text(got) != x.want || e != api.OK {
-			t.Error("Above", x.from, text(got), e)
+		if got, e := reach.Above(x.g, l...); sample.Text(got...) != x.want || e != api.OK {
+			t.Error("Above", x.from, sample.Text(got...), e)
 		}
 	}
 	for at, want := range map[string][2]string{"A4": {"A3", "B1:B3 A3"}, "A3": {"", "B1:B3"}, "A2": {"", "A1 B1"}, "A1": {"", ""}, "C1": {"", ""}} {
-		if l, e := reach.Below(g, ref(at)); text(l) != want[0] || e != api.OK {
-			t.Error("Below", at, text(l), e)
+		if l, e := reach.Below(g, sample.Ref(at)); sample.Text(l...) != want[0] || e != api.OK {
+			t.Error("Below", at, sample.Text(l...), e)
 		}
-		l, e := reach.Leaves(g, ref(at))
+		l, e := reach.Leaves(g, sample.Ref(at))
 		var words []string
 		for _, r := range l {
 			s, _ := rect.Format(r)
@@ -86,25 +49,25 @@ func TestExamples(t *testing.T) {
 	}
 	for s, want := range map[string]bool{"A4 B3": true, "A4 A4": false, "B1 B1": false, "A4 A3": true, "A3 A4": false, "A2 A1": true} {
 		a, b, _ := strings.Cut(s, " ")
-		if ok, e := reach.Reaches(g, ref(a), ref(b)); ok != want || e != api.OK {
+		if ok, e := reach.Reaches(g, sample.Ref(a), sample.Ref(b)); ok != want || e != api.OK {
 			t.Error("Reaches", s, ok, e)
 		}
 	}
 	for s, want := range map[string]string{"A4 B2": "A4 A3 B2", "A2 A3": "", "A3 B1": "A3 B1", "A1 A1": "", "A4 A4": ""} {
 		a, b, _ := strings.Cut(s, " ")
-		if l, ok, e := reach.Path(g, ref(a), ref(b)); text(l) != want || ok != (want != "") || e != api.OK {
-			t.Error("Path", s, text(l), ok, e)
+		if l, ok, e := reach.Path(g, sample.Ref(a), sample.Ref(b)); sample.Text(l...) != want || ok != (want != "") || e != api.OK {
+			t.Error("Path", s, sample.Text(l...), ok, e)
 		}
 	}
-	if l, ok, e := reach.Path(circle, ref("A4"), ref("A4")); text(l) != "A4 A3 B3 A4" || !ok || e != api.OK {
-		t.Error("Path A4 A4", text(l), ok, e)
+	if l, ok, e := reach.Path(circle, sample.Ref("A4"), sample.Ref("A4")); sample.Text(l...) != "A4 A3 B3 A4" || !ok || e != api.OK {
+		t.Error("Path A4 A4", sample.Text(l...), ok, e)
 	}
 }
 
 // The order of Leaves.
 func TestLeaves(t *testing.T) {
-	g := graph(t, "Z1 =SUM(B2:C3,A2:Z2,B2:C2,B2:B3,B1,Z2)+B2+B2;Z2 =SUM(B2:C3,A9)")
-	l, e := reach.Leaves(g, ref("Z1"))
+	g := sample.Graph("Z1 =SUM(B2:C3,A2:Z2,B2:C2,B2:B3,B1,Z2)+B2+B2;Z2 =SUM(B2:C3,A9)")
+	l, e := reach.Leaves(g, sample.Ref("Z1"))
 	var words []string
 	for _, r := range l {
 		s, _ := rect.Format(r)
@@ -117,8 +80,8 @@ func TestLeaves(t *testing.T) {
 
 // The errors, in their order.
 func TestFaults(t *testing.T) {
-	g := graph(t, example)
-	good := ref("A1")
+	g := sample.Graph(example)
+	good := sample.Ref("A1")
 	for _, at := range []api.Ref{{}, {Col: 1025, Row: 1}, {Col: 1, Row: 1025}, {Col: math.MinInt, Row: math.MaxInt}} {
 		for _, g := range []*deps.Graph{nil, g} {
 			want := api.ErrRange
@@ -154,7 +117,7 @@ var inputs = []string{"", "", "5", "=A1", "=B2+C3", "=D4", "=SUM(A3:B4)", "=DSUM
 // P23.1 to P23.8, against all ways of at most some length.
 func TestRandom(t *testing.T) {
 	r := rand.New(rand.NewSource(1))
-	cells, _ := rect.Refs(area("A1:E5"))
+	cells, _ := rect.Refs(sample.Rect("A1:E5"))
 	for range 120 {
 		g, _ := deps.New()
 		for range r.Intn(25) {
@@ -200,11 +163,11 @@ func TestRandom(t *testing.T) {
 					t.Fatal("Leaves", a, b, leaves)
 				}
 			}
-			if l, e := reach.Below(g, a); text(l) != text(below) || e != api.OK {
-				t.Fatal("Below", a, text(l), text(below), e)
+			if l, e := reach.Below(g, a); sample.Text(l...) != sample.Text(below...) || e != api.OK {
+				t.Fatal("Below", a, sample.Text(l...), sample.Text(below...), e)
 			}
-			if l, e := reach.Above(g, rect.One(a)); text(l) != text(up) || e != api.OK {
-				t.Fatal("Above", a, text(l), text(up), e)
+			if l, e := reach.Above(g, rect.One(a)); sample.Text(l...) != sample.Text(up...) || e != api.OK {
+				t.Fatal("Above", a, sample.Text(l...), sample.Text(up...), e)
 			}
 			if r.Intn(5) == 0 {
 				above = append(above, rect.One(a))
@@ -214,7 +177,7 @@ func TestRandom(t *testing.T) {
 			}
 		}
 		if l, e := reach.Above(g, above...); len(l) != len(both) || e != api.OK || slices.ContainsFunc(l, func(b api.Ref) bool { return !both[b] }) {
-			t.Fatal("Above", above, text(l), e)
+			t.Fatal("Above", above, sample.Text(l...), e)
 		}
 	}
 }
@@ -248,8 +211,8 @@ func checkPath(t *testing.T, g *deps.Graph, a, b api.Ref, ok bool, cells []api.R
 			return nil
 		}
 		if want := try(a, n); want != nil {
-			if text(way) != text(want) {
-				t.Fatal("Path", text(way), "want", text(want))
+			if sample.Text(way...) != sample.Text(want...) {
+				t.Fatal("Path", sample.Text(way...), "want", sample.Text(want...))
 			}
 			return
 		}

@@ -11,15 +11,8 @@ import (
 	"louvre/api"
 	"louvre/rect"
 	"louvre/region"
+	"louvre/sample"
 )
-
-func read(s string) api.Rect {
-	r, e := rect.Parse(s)
-	if e != api.OK {
-		panic(s)
-	}
-	return r
-}
 
 func text(l ...api.Rect) string {
 	var words []string
@@ -30,19 +23,14 @@ func text(l ...api.Rect) string {
 	return strings.Join(words, " ")
 }
 
-func rule(s string, read, write, own uint64) api.Rule {
-	r, _ := rect.Parse(s)
-	return api.Rule{Rect: r, Rights: api.Rights{Read: read, Write: write, Own: own}}
-}
-
 // example is the rules of chapter 19.
 func example() []api.Rule {
-	return []api.Rule{rule("A1:AMJ1024", 7, 7, 1), rule("B1:B3", 1, 1, 1), rule("B2:C2", 2, 0, 1)}
+	return []api.Rule{sample.Rule("A1:AMJ1024", 7, 7, 1), sample.Rule("B1:B3", 1, 1, 1), sample.Rule("B2:C2", 2, 0, 1)}
 }
 
 // random returns rules with ranges in A1:H8.
 func random(r *rand.Rand) []api.Rule {
-	l := []api.Rule{rule("A1:AMJ1024", uint64(r.Intn(8)), uint64(r.Intn(8)), uint64(r.Intn(8)))}
+	l := []api.Rule{sample.Rule("A1:AMJ1024", uint64(r.Intn(8)), uint64(r.Intn(8)), uint64(r.Intn(8)))}
 	for range r.Intn(8) {
 		x := small(r)
 		l = append(l, api.Rule{Rect: x, Rights: api.Rights{Read: uint64(r.Intn(4)), Write: uint64(r.Intn(8)), Own: uint64(r.Intn(8))}})
@@ -79,21 +67,21 @@ func in(at api.Ref, l []api.Rect) []int {
 func TestExamples(t *testing.T) {
 	l := example()
 	for s, want := range map[string]api.Rights{"A1:B1": {Read: 1, Write: 1, Own: 1}, "B1:B3": {Own: 1}, "A1:A9": {Read: 7, Write: 7, Own: 1}, "A1:AMJ1024": {Own: 1}} {
-		if o, e := region.Over(read(s), l...); o != want || e != api.OK {
+		if o, e := region.Over(sample.Rect(s), l...); o != want || e != api.OK {
 			t.Error("Over", s, o, e)
 		}
 	}
-	parts, which, e := region.Parts(read("B1:B3"), l...)
+	parts, which, e := region.Parts(sample.Rect("B1:B3"), l...)
 	if text(parts...) != "B1 B2 B3" || !slices.Equal(which, []int{1, 2, 1}) || e != api.OK {
 		t.Error("Parts", parts, which, e)
 	}
-	if w, o, e := region.May(0, read("B1:B3"), l...); w || !o || e != api.OK {
+	if w, o, e := region.May(0, sample.Rect("B1:B3"), l...); w || !o || e != api.OK {
 		t.Error("May", w, o, e)
 	}
-	if w, o, e := region.May(1, read("A1"), l...); !w || o || e != api.OK {
+	if w, o, e := region.May(1, sample.Rect("A1"), l...); !w || o || e != api.OK {
 		t.Error("May", w, o, e)
 	}
-	d, e := region.Differ(read("A1:C3"), l[:1], l)
+	d, e := region.Differ(sample.Rect("A1:C3"), l[:1], l)
 	for i, want := range []bool{false, true, false, false, true, true, false, true, false} {
 		if at := (api.Ref{Col: 1 + i%3, Row: 1 + i/3}); (len(in(at, d)) == 1) != want || e != api.OK {
 			t.Error("Differ", at, text(d...), e)
@@ -166,9 +154,9 @@ func TestLaws(t *testing.T) {
 // P20.1: many rules.
 func TestMany(t *testing.T) {
 	r := rand.New(rand.NewSource(3))
-	whole := read("A1:AMJ1024")
+	whole := sample.Rect("A1:AMJ1024")
 	for i := range 6 {
-		l := []api.Rule{rule("A1:AMJ1024", 1, 1, 1)}
+		l := []api.Rule{sample.Rule("A1:AMJ1024", 1, 1, 1)}
 		for k := 1; k < 64; k++ {
 			c, d := 1+r.Intn(1024), 1+r.Intn(1024)
 			e, f := 1+r.Intn(1024), 1+r.Intn(1024)
@@ -196,7 +184,7 @@ func TestMany(t *testing.T) {
 
 // The errors, in their order.
 func TestFaults(t *testing.T) {
-	good, bad, one := example(), []api.Rule{{}}, read("A1")
+	good, bad, one := example(), []api.Rule{{}}, sample.Rect("A1")
 	wrong := api.Rect{C1: 2, R1: 1, C2: 1, R2: 1}
 	for _, x := range []struct {
 		r     api.Rect

@@ -7,6 +7,7 @@ import (
 
 	"louvre/addr"
 	"louvre/api"
+	"louvre/deps"
 	"louvre/rect"
 )
 
@@ -114,4 +115,14 @@ func listed(inputs map[api.Ref]string) []api.Entry {
 	}
 	slices.SortFunc(l, func(a, b api.Entry) int { return order(a.At, b.At) })
 	return l
+}
+
+// Graph returns the graph of the formulas that s says, in any order: A1 =B1;A2 =A1
+func Graph(s string) *deps.Graph {
+	g, _ := deps.New()
+	for w := range strings.SplitSeq(s, ";") {
+		at, input, _ := strings.Cut(w, " ")
+		g.Set(Ref(at), input)
+	}
+	return g
 }

@@ -8,7 +8,6 @@ import (
 
 	"louvre/api"
 	"louvre/book"
-	"louvre/cycle"
 	"louvre/denote"
 	"louvre/deps"
 	"louvre/model"
@@ -57,21 +56,6 @@ func same(a, b api.Step) bool {
 	return a.Op == b.Op && slices.Equal(a.Counts, b.Counts) && a.Reply.Code == b.Reply.Code && a.Reply.At == b.Reply.At && a.Reply.Text == b.Reply.Text && a.Reply.Count == b.Reply.Count && slices.Equal(a.Reply.Grid, b.Reply.Grid) && slices.Equal(a.Reply.Events, b.Reply.Events) && slices.Equal(a.Reply.Releases, b.Reply.Releases)
 }
 
-// due returns the cells that are evaluated after a range was written.
-func due(b api.Book, r api.Rect) []api.Ref {
-	g, _ := deps.New(b.Entries...)
-	circular, _ := cycle.Circular(g)
-	above, _ := reach.Above(g, r)
-	var l []api.Ref
-	for _, at := range g.Formulas() {
-		if (rect.Has(r, at) || slices.Contains(above, at)) && !slices.Contains(circular, at) {
-			l = append(l, at)
-		}
-	}
-	l, _ = cycle.Among(g, l...)
-	return l
-}
-
 // W1, W4, W5, P38.2 to P38.7: sequences of operations on random books.
 func TestRandom(t *testing.T) {
 	r := rand.New(rand.NewSource(1))
@@ -97,7 +81,7 @@ func TestRandom(t *testing.T) {
 			}
 			var want []api.Ref
 			if step.Reply.Code == api.Done && (x.Kind == api.OpSet || x.Kind == api.OpClear) {
-				want = due(s.Book(), x.Rect)
+				want = sample.Due(s.Book(), x.Rect)
 			}
 			if got := s.Evaluated(); !slices.Equal(got, want) {
 				t.Fatal("Evaluated", b, all, sample.Text(got...), sample.Text(want...))
