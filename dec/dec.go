@@ -9,7 +9,7 @@ import (
 )
 
 const (
-	places   = 4    // decimal places of a number
+	decimals = 4    // decimal places of a number
 	maxPower = 1000 // the greatest exponent, and the least one without its sign
 )
 
@@ -48,16 +48,16 @@ func Quo(a, b int64) (int64, bool) {
 }
 
 // Round returns a, rounded to so many places.
-func Round(a int64, n int) (int64, bool) {
-	if n >= places {
+func Round(a int64, places int) (int64, bool) {
+	if places >= decimals {
 		return inRange(a, true)
 	}
 	// 10^19 is the greatest power of ten that a uint64 holds. Half of the next one is greater than any int64, so everything is rounded to 0.
-	if n < places-19 {
+	if places < decimals-19 {
 		return 0, true
 	}
 	step := uint64(1)
-	for range places - n {
+	for range decimals - places {
 		step *= 10
 	}
 	m := (size(a) + step/2) / step * step

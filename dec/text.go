@@ -48,11 +48,11 @@ func scaled(whole, part string) (int64, bool) {
 	for i := range len(whole) {
 		push(digitAt(whole, i))
 	}
-	for i := range places {
+	for i := range decimals {
 		push(digitAt(part, i))
 	}
 	// The first digit that is left decides: half is rounded away from zero.
-	if ok && digitAt(part, places) >= 5 {
+	if ok && digitAt(part, decimals) >= 5 {
 		m, ok = Add(m, 1)
 	}
 	return m, ok
@@ -77,9 +77,9 @@ func Format(a int64) string {
 	if rest == 0 {
 		return text
 	}
-	part := [places]byte{}
-	for i := range places {
-		part[places-1-i] = byte('0' + rest%10)
+	part := [decimals]byte{}
+	for i := range decimals {
+		part[decimals-1-i] = byte('0' + rest%10)
 		rest /= 10
 	}
 	return text + "." + strings.TrimRight(string(part[:]), "0")
