@@ -3,6 +3,7 @@ package flow
 import (
 	"iter"
 	"math"
+	"slices"
 
 	"louvre/acl"
 	"louvre/api"
@@ -28,6 +29,12 @@ type aggregate struct {
 	rect api.Rect
 }
 
+// use is a range that a cell uses, and the users to whom this use is released.
+type use struct {
+	rect api.Rect
+	free uint64
+}
+
 // link is a formula cell that uses another one, and the users to whom all its uses of that one are released.
 type link struct {
 	by, at api.Ref
@@ -40,8 +47,8 @@ func newLabels(g *deps.Graph, rules []api.Rule, grants []api.Grant) *labels {
 	for _, at := range g.Formulas() {
 		rights, _ := acl.At(at, rules...)
 		l.of[at] = rights.Read
-		for r, free := range l.uses(at) {
-			l.of[at] &= l.readersOf(r) | free
+		for u := range l.uses(at) {
+			l.of[at] &= l.readersOf(u.rect) | u.free
 		}
 	}
 	links := l.links()
@@ -67,11 +74,17 @@ users:
 // links returns for each formula cell the formula cells that use it.
 func (l *labels) links() map[api.Ref][]link {
 	links := map[api.Ref][]link{}
+	var by api.Ref
+	var uses []use // of by; the edges of a cell follow each other
 	for _, e := range l.g.Edges() {
-		x := link{by: e[0], at: e[1], free: math.MaxUint64}
-		for r, free := range l.uses(x.by) {
-			if rect.Has(r, x.at) {
-				x.free &= free
+		if e[0] != by {
+			by = e[0]
+			uses = slices.Collect(l.uses(by))
+		}
+		x := link{by: by, at: e[1], free: math.MaxUint64}
+		for _, u := range uses {
+			if rect.Has(u.rect, x.at) {
+				x.free &= u.free
 			}
 		}
 		links[x.at] = append(links[x.at], x)
@@ -79,11 +92,11 @@ func (l *labels) links() map[api.Ref][]link {
 	return links
 }
 
-// uses yields the ranges that a cell uses, and the users to whom this use is released.
-func (l *labels) uses(at api.Ref) iter.Seq2[api.Rect, uint64] {
-	return func(yield func(api.Rect, uint64) bool) {
+// uses yields the uses of a cell.
+func (l *labels) uses(at api.Ref) iter.Seq[use] {
+	return func(yield func(use) bool) {
 		for _, u := range l.g.Uses(at) {
-			if !yield(u.Rect, l.released(u)) {
+			if !yield(use{u.Rect, l.released(u)}) {
 				return
 			}
 		}
